@@ -485,7 +485,8 @@ func TestQuotientMemory(t *testing.T) {
 	for _, rest := range []int64{1, -1} {
 		given := append(slices.Clone(kept[:3]), impl.Turn{Digit: -3, Rest: rest}, impl.Turn{Digit: 5, Rest: 5})
 		before := slices.Clone(given)
-		first, want := mendedOf(given[:4], 7), mendedOf(given[:4], 7)
+		first := mendedOf(given[:4], 7)
+		want := quotient{slices.Clone(first.digits), first.left, first.fine}
 		fillAll(first.digits)
 		if again := mendedOf(given[:4], 7); !again.same(want) || !slices.Equal(given, before) {
 			t.Errorf("Mended: %v, not %v; of %v, once %v", again, want, given, before)
