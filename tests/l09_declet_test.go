@@ -356,7 +356,7 @@ func TestDecletsSideBySide(t *testing.T) {
 	told := make([]int64, numberCount)
 	group := sync.WaitGroup{}
 	for number := range numberCount {
-		group.Go(func() { told[number] = impl.Undeclet(impl.Declet(number)) })
+		group.Go(func() { told[number] = impl.Undeclet(impl.Canonical(impl.Declet(number))) })
 	}
 	group.Wait()
 	for number, back := range told {

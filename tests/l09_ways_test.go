@@ -6,22 +6,43 @@ import (
 	"testing"
 )
 
-// TestDecletWays: the table is made once, by a sync.Once behind a function that
-// Declet and Undeclet call.
+// TestDecletWays: the table is made once, by a sync.Once behind a function. Of
+// the exported functions Canonical reads it; the others come to no such table.
 func TestDecletWays(t *testing.T) {
 	file := parseImpl(t, token.NewFileSet())["l09_declet.go"]
 	makers := onceMakers(file)
-	for _, name := range []string{"Declet", "Undeclet"} {
-		asked := false
-		ast.Inspect(functionNamed(t, file, name), func(n ast.Node) bool {
-			call, ok := n.(*ast.CallExpr)
-			asked = asked || ok && makers[calledName(call)]
-			return true
-		})
-		if !asked {
-			t.Errorf("%s does not ask for a table made once", name)
+	for name, reads := range map[string]bool{"Declet": false, "Undeclet": false, "Declets": false, "Canonical": true} {
+		found := false
+		for reached := range reachedFrom(file, name) {
+			found = found || makers[reached]
+		}
+		if found != reads {
+			t.Errorf("%s comes to a table made once: %v", name, found)
 		}
 	}
+}
+
+// reachedFrom are the names that a function of the file uses, and those that
+// these use, as far as they are functions of the file.
+func reachedFrom(file *ast.File, name string) map[string]bool {
+	reached, work := map[string]bool{name: true}, []string{name}
+	for len(work) > 0 {
+		for _, decl := range file.Decls {
+			function, ok := decl.(*ast.FuncDecl)
+			if !ok || function.Name.Name != work[0] {
+				continue
+			}
+			ast.Inspect(function.Body, func(n ast.Node) bool {
+				if used, ok := n.(*ast.Ident); ok && !reached[used.Name] {
+					reached[used.Name] = true
+					work = append(work, used.Name)
+				}
+				return true
+			})
+		}
+		work = work[1:]
+	}
+	return reached
 }
 
 // onceMakers are the functions that call Do of one of the file's sync.Once.

@@ -59,7 +59,7 @@ func TestLanguage(t *testing.T) {
 }
 
 func TestLayout(t *testing.T) {
-	for _, pattern := range []string{"../impl/*.go", "*.go"} {
+	for _, pattern := range []string{"../impl/*.go", "*.go", "testdata/*.go"} {
 		paths, _ := filepath.Glob(pattern)
 		for _, path := range paths {
 			text, err := os.ReadFile(path)
