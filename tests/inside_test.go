@@ -7,18 +7,20 @@ import (
 	"testing"
 )
 
-// TestDecletsInside holds the table made once against the function. No exported
-// function tells what the table alone tells, so this is asked inside the
-// package: in a copy of it, to which testdata/l09_inside_test.go is laid.
-func TestDecletsInside(t *testing.T) {
+// TestInside asks inside the package what no exported function tells (what the
+// table of declets made once holds, what naturals are over every kind of whole
+// number): in a copy of it, to which the tests of testdata are laid.
+func TestInside(t *testing.T) {
 	folder := t.TempDir()
 	layFile(t, "../go.mod", filepath.Join(folder, "go.mod"))
-	paths, err := filepath.Glob("../impl/*.go")
-	if err != nil {
-		t.Fatal(err)
-	}
-	for _, path := range append(paths, "testdata/l09_inside_test.go") {
-		layFile(t, path, filepath.Join(folder, "impl", filepath.Base(path)))
+	for _, pattern := range []string{"../impl/*.go", "testdata/*_inside_test.go"} {
+		paths, err := filepath.Glob(pattern)
+		if err != nil || len(paths) == 0 {
+			t.Fatalf("%d files are %s, %v", len(paths), pattern, err)
+		}
+		for _, path := range paths {
+			layFile(t, path, filepath.Join(folder, "impl", filepath.Base(path)))
+		}
 	}
 	command := exec.Command("go", "test", "-count=1", "-v", "./impl")
 	command.Dir = folder
