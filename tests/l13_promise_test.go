@@ -389,8 +389,17 @@ func TestSumsPromise(t *testing.T) {
 func checkBetween(t *testing.T, l wordLayout, o operation, nums []impl.Num, x exactly) {
 	t.Helper()
 	exact := finite(x.units.Sign() < 0, new(big.Int).Abs(x.units).String(), x.exp)
+	against := func(n impl.Num) int { return compareNums(t, n, exact) }
+	checkAround(t, l, o, nums, against)
+	checkFlagged(t, l, o, nums, against)
+}
+
+// checkAround knows the exact result only by how a number stands against it:
+// below 0 where it is less, above 0 where it is more.
+func checkAround(t *testing.T, l wordLayout, o operation, nums []impl.Num, against func(n impl.Num) int) {
+	t.Helper()
 	down, up := o.call(l.format, impl.RmFloor, nums).Num, o.call(l.format, impl.RmCeil, nums).Num
-	if compareNums(t, down, exact) > 0 || compareNums(t, exact, up) > 0 {
+	if against(down) > 0 || against(up) < 0 {
 		t.Fatalf("%s(%d, %+v) is not from %+v to %+v", o.name, l.format, nums, down, up)
 	}
 	for _, mode := range allModes {
@@ -401,7 +410,15 @@ func checkBetween(t *testing.T, l wordLayout, o operation, nums []impl.Num, x ex
 		if compareNums(t, down, got.Num) > 0 || compareNums(t, got.Num, up) > 0 {
 			t.Fatalf("%s(%d, %d, %+v) = %+v is not from %+v to %+v", o.name, l.format, mode, nums, got, down, up)
 		}
-		if isExact := compareNums(t, got.Num, exact) == 0; isExact != (got.Flags == 0) {
+	}
+}
+
+// checkFlagged: something is flagged just where the result is not exact.
+func checkFlagged(t *testing.T, l wordLayout, o operation, nums []impl.Num, against func(n impl.Num) int) {
+	t.Helper()
+	for _, mode := range allModes {
+		got := o.call(l.format, mode, nums)
+		if isExact := against(got.Num) == 0; isExact != (got.Flags == 0) {
 			t.Fatalf("%s(%d, %d, %+v) = %+v, and that is exact: %v", o.name, l.format, mode, nums, got, isExact)
 		}
 	}

@@ -96,38 +96,44 @@ func TestMaxScale(t *testing.T) {
 	}
 }
 
-// TestSumsRefuseFormatsAndModes: beside whatever Nums, NaNs among them.
-func TestSumsRefuseFormatsAndModes(t *testing.T) {
-	for _, o := range sumOperations() {
-		for _, l := range wordLayouts {
-			for _, nums := range tuples(fewNums(l), o.count) {
-				if got := o.call(l.format, impl.RmEven, nums); got == (impl.Result{}) {
-					t.Errorf("%s(%d, 1, %+v) is refused", o.name, l.format, nums)
-				}
-				for _, format := range noFormats {
-					o.check(t, format, impl.RmEven, nums, impl.Result{})
-				}
-				for _, mode := range noModes {
-					o.check(t, l.format, mode, nums, impl.Result{})
-				}
+// refusesFormats: beside whatever Nums, NaNs among them.
+func (o operation) refusesFormats(t *testing.T) {
+	t.Helper()
+	for _, l := range wordLayouts {
+		for _, nums := range tuples(fewNums(l), o.count) {
+			if got := o.call(l.format, impl.RmEven, nums); got == (impl.Result{}) {
+				t.Errorf("%s(%d, 1, %+v) is refused", o.name, l.format, nums)
+			}
+			for _, format := range noFormats {
+				o.check(t, format, impl.RmEven, nums, impl.Result{})
 			}
 		}
 	}
 }
 
-// TestSumsRefuseNums: one wrong Num as each argument; the others are right, and
-// among them are what alone would give a NaN or an infinity.
-func TestSumsRefuseNums(t *testing.T) {
-	for _, o := range sumOperations() {
-		for _, l := range wordLayouts {
-			beside := []impl.Num{finite(false, "2", 0), finite(true, "0", 1), infinity(true), quietNan, signalNan}
-			for _, wrong := range wrongNums(l) {
-				for place := range o.count {
-					for _, nums := range tuples(beside, o.count-1) {
-						nums = append(append(append([]impl.Num{}, nums[:place]...), wrong), nums[place:]...)
-						for _, mode := range []int64{impl.RmEven, impl.RmFloor} {
-							o.check(t, l.format, mode, nums, impl.Result{})
-						}
+func (o operation) refusesModes(t *testing.T) {
+	t.Helper()
+	for _, l := range wordLayouts {
+		for _, nums := range tuples(fewNums(l), o.count) {
+			for _, mode := range noModes {
+				o.check(t, l.format, mode, nums, impl.Result{})
+			}
+		}
+	}
+}
+
+// refusesNums: one wrong Num as each argument; the others are right, and among
+// them are what alone would give a NaN or an infinity.
+func (o operation) refusesNums(t *testing.T) {
+	t.Helper()
+	for _, l := range wordLayouts {
+		beside := []impl.Num{finite(false, "2", 0), finite(true, "0", 1), infinity(true), quietNan, signalNan}
+		for _, wrong := range wrongNums(l) {
+			for place := range o.count {
+				for _, nums := range tuples(beside, o.count-1) {
+					nums = append(append(append([]impl.Num{}, nums[:place]...), wrong), nums[place:]...)
+					for _, mode := range []int64{impl.RmEven, impl.RmFloor} {
+						o.check(t, l.format, mode, nums, impl.Result{})
 					}
 				}
 			}
@@ -135,36 +141,49 @@ func TestSumsRefuseNums(t *testing.T) {
 	}
 }
 
-// TestSumsOfTheOtherFormat: what is right in the wide format alone is refused in
-// the small one.
-func TestSumsOfTheOtherFormat(t *testing.T) {
+// refusesTheWide: what is right in the wide format alone is refused in the small
+// one.
+func (o operation) refusesTheWide(t *testing.T) {
+	t.Helper()
 	for _, n := range []impl.Num{finite(false, nines(17), 0), finite(true, "1", -399), finite(false, "0", 370)} {
-		for _, o := range sumOperations() {
-			nums := []impl.Num{n, n, n}[:o.count]
-			o.check(t, impl.Fm64, impl.RmEven, nums, impl.Result{})
-			if got := o.call(impl.Fm128, impl.RmEven, nums); got == (impl.Result{}) {
-				t.Errorf("%s(128, 1, %+v) is refused", o.name, nums)
+		nums := []impl.Num{n, n, n}[:o.count]
+		o.check(t, impl.Fm64, impl.RmEven, nums, impl.Result{})
+		if got := o.call(impl.Fm128, impl.RmEven, nums); got == (impl.Result{}) {
+			t.Errorf("%s(128, 1, %+v) is refused", o.name, nums)
+		}
+	}
+}
+
+// passesNans: a NaN that signals ahead of one that does not, and both ahead of
+// all that infinities and noughts would do.
+func (o operation) passesNans(t *testing.T) {
+	t.Helper()
+	for _, l := range wordLayouts {
+		for _, nums := range tuples(fewNums(l), o.count) {
+			for _, mode := range allModes {
+				switch {
+				case holdsKind(nums, impl.NkSignal):
+					o.check(t, l.format, mode, nums, notValid)
+				case holdsKind(nums, impl.NkNan):
+					o.check(t, l.format, mode, nums, plainly(quietNan))
+				}
 			}
 		}
 	}
 }
 
-// TestSumsOfNans: a NaN that signals ahead of one that does not, and both ahead
-// of all that infinities and noughts would do.
+func TestSumsRefuse(t *testing.T) {
+	for _, o := range sumOperations() {
+		o.refusesFormats(t)
+		o.refusesModes(t)
+		o.refusesNums(t)
+		o.refusesTheWide(t)
+	}
+}
+
 func TestSumsOfNans(t *testing.T) {
 	for _, o := range sumOperations() {
-		for _, l := range wordLayouts {
-			for _, nums := range tuples(fewNums(l), o.count) {
-				for _, mode := range allModes {
-					switch {
-					case holdsKind(nums, impl.NkSignal):
-						o.check(t, l.format, mode, nums, notValid)
-					case holdsKind(nums, impl.NkNan):
-						o.check(t, l.format, mode, nums, plainly(quietNan))
-					}
-				}
-			}
-		}
+		o.passesNans(t)
 	}
 }
 
